@@ -65,7 +65,7 @@ func stays(t *testing.T, name string, c *raster.Canvas) {
 	}
 }
 
-// Three signs and the box, worked out by hand of the chapter's words.
+// Three signs and the box, worked out of the chapter's words apart from the program.
 var (
 	bang = []string{
 		"........", "..###...", ".###....", "..#.#.#.", ".##..##.", "...###..", ".#.#.#..", "..#.###.",
